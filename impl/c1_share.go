@@ -242,10 +242,15 @@ func greatestOf(list []int) int {
 	return best
 }
 
+// isWithin reports whether a number is in 0..most.
+func isWithin(n int, most int) bool {
+	return n >= 0 && n <= most
+}
+
 // allWithin reports whether each number is in 0..most.
 func allWithin(list []int, most int) bool {
 	for _, n := range list {
-		if n < 0 || n > most {
+		if !isWithin(n, most) {
 			return false
 		}
 	}
