@@ -18,6 +18,9 @@ const MaxUnits = 500
 // maxDigits is as many digits as MaxAmount has, so that no number that is read can overflow.
 const maxDigits = 7
 
+// middleStep is how much each unit of a weight adds to what SplitByMiddle divides it by.
+const middleStep = 2
+
 // Frac is a fraction from 0 to 1.
 type Frac struct {
 	Num int
@@ -158,7 +161,7 @@ func SplitByHighest(n int, weights []int) []int {
 
 // SplitByMiddle returns units divided by middle averages.
 func SplitByMiddle(n int, weights []int) []int {
-	return splitByAverage(n, weights, 2)
+	return splitByAverage(n, weights, middleStep)
 }
 
 // DistanceOf returns how far a division is from the weights.
